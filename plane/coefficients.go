@@ -65,16 +65,3 @@ func at(q api.Point, n []int64) (api.Plane, api.Errno) {
 	d := n[0]*q[0] + n[1]*q[1] + n[2]*q[2]
 	return Make(n[0]*q[3], n[1]*q[3], n[2]*q[3], -d)
 }
-
-// across returns a multiple, greater than 0, of the vector product of r - q and s - q.
-func across(q, r, s api.Point) [3]sums.Sum {
-	return [3]sums.Sum{minor(1, 2, q, r, s), minor(2, 0, q, r, s), minor(0, 1, q, r, s)}
-}
-
-// minor is the determinant whose rows are the coordinates i and j and the weight of the three points. It is less than 2^122.
-func minor(i, j int, q, r, s api.Point) sums.Sum {
-	area := func(a, b api.Point) sums.Sum {
-		return sums.Product(a[i], b[j]).Minus(sums.Product(a[j], b[i]))
-	}
-	return sums.Total(area(q, r).Times(s[3]), area(r, s).Times(q[3]), area(s, q).Times(r[3]))
-}

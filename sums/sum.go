@@ -1,7 +1,16 @@
-// Package sums reckons with integers of two words, in which sums of products of coordinates are exact.
+// Package sums reckons with integers of two words, and with few of three, in which sums of products of coordinates are exact.
 package sums
 
-import "math/bits"
+import (
+	"math/bits"
+	"strconv"
+)
+
+// Text writes eighteen digits at once, which fit into an int64.
+const (
+	partBase  = 1_000_000_000_000_000_000
+	partZeros = "000000000000000000"
+)
 
 // Sum is an integer from -2^127 to 2^127 - 1, in two's complement. What lies outside is reduced modulo 2^128.
 type Sum struct{ high, low uint64 }
@@ -71,4 +80,18 @@ func (s Sum) Int() (int64, bool) {
 		return 0, false
 	}
 	return n, true
+}
+
+// Text returns s in decimal digits.
+func (s Sum) Text() string {
+	if n, fits := s.Int(); fits {
+		return strconv.FormatInt(n, 10)
+	}
+	high, low := quotient(s.Size(), Of(partBase))
+	digits := strconv.FormatUint(low.low, 10)
+	text := high.Text() + partZeros[len(digits):] + digits
+	if s.Sign() < 0 {
+		return "-" + text
+	}
+	return text
 }

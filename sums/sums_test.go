@@ -171,3 +171,101 @@ func TestLowestOfLargeAndNone(t *testing.T) {
 		t.Errorf("divisors of none, or 0")
 	}
 }
+
+func TestText(t *testing.T) {
+	r := rolls(4)
+	for range 3000 {
+		a := times(t, wide.FromInt(r.number()), wide.FromInt(r.number()))
+		if got := read(t, a).Text(); got != a {
+			t.Errorf("the text of %s: %s", a, got)
+		}
+	}
+	for k := range 127 {
+		a, e := wide.Pow("2", k)
+		for _, b := range []string{"-1", "0", "1"} {
+			n := plus(t, calculated(t, a, e), b)
+			if got, turned := read(t, n).Text(), read(t, times(t, n, "-1")).Text(); got != n || turned != times(t, n, "-1") {
+				t.Errorf("the texts of %s and its opposite: %s, %s", n, got, turned)
+			}
+		}
+	}
+	for k := range 39 {
+		a, e := wide.Pow("10", k)
+		if got := read(t, calculated(t, a, e)).Text(); got != a {
+			t.Errorf("the text of %s: %s", a, got)
+		}
+	}
+	lowest, e := wide.Pow("-2", 127)
+	if got := read(t, calculated(t, lowest, e)).Text(); got != lowest {
+		t.Errorf("the text of %s: %s", lowest, got)
+	}
+}
+
+// Each sum of long ones is compared with its negative one, and with others of three words that are near to it.
+func TestLong(t *testing.T) {
+	r := rolls(5)
+	for range 3000 {
+		a, b := times(t, wide.FromInt(r.number()), wide.FromInt(r.number())), times(t, wide.FromInt(r.number()), wide.FromInt(r.number()))
+		k, m := r.number(), r.number()
+		if r.word()%3 == 0 {
+			b, m = plus(t, a, wide.FromInt(r.number())), -k
+		}
+		want := plus(t, times(t, a, wide.FromInt(k)), times(t, b, wide.FromInt(m)))
+		order, e := wide.Cmp(want, "0")
+		if e != api.OK {
+			t.Fatalf("error %d", e)
+		}
+		got := sums.LongTotal(read(t, a).Long(k), read(t, b).Long(m))
+		if got.Sign() != order {
+			t.Errorf("%s * %d + %s * %d: %v, want %s", a, k, b, m, got, want)
+		}
+		turned := sums.LongTotal(got, read(t, a).Long(-k), read(t, b).Long(-m))
+		if turned != (sums.Long{}) || turned.Sign() != 0 {
+			t.Errorf("%s * %d + %s * %d: what is left is %v", a, k, b, m, turned)
+		}
+	}
+	top := sums.Product(1<<62, 1<<62)
+	for _, k := range []int64{1, -1, 1<<63 - 1, -1 << 63} {
+		one := sums.Of(1).Long(1)
+		if k < 0 {
+			one = sums.Of(-1).Long(1)
+		}
+		if got := sums.LongTotal(top.Long(k), top.Minus(sums.Of(1)).Times(-1).Long(k), sums.Of(k).Long(-1)); got.Sign() != 0 {
+			t.Errorf("a difference of products with %d: %v", k, got)
+		}
+		if got := sums.LongTotal(top.Long(k), one); got.Sign() != one.Sign() {
+			t.Errorf("the sign of a product with %d: %v", k, got)
+		}
+	}
+	if sums.LongTotal() != (sums.Long{}) || sums.Of(0).Long(-5).Sign() != 0 {
+		t.Errorf("the sum of none is not 0")
+	}
+}
+
+func TestMinor(t *testing.T) {
+	r := rolls(6)
+	within := func() int64 { return r.number() >> 22 }
+	for range 2000 {
+		l := [3][4]int64{}
+		for i := range l {
+			l[i] = [4]int64{within(), within(), within(), within()}
+			if i == 2 && r.word()%3 == 0 {
+				l[2] = l[r.word()%2]
+			}
+		}
+		for i, columns := range [][3]int{{1, 2, 3}, {2, 0, 3}, {0, 1, 3}, {0, 2, 1}, {3, 0, 1}, {1, 1, 2}} {
+			var m [][]string
+			for _, row := range l {
+				m = append(m, []string{wide.FromInt(row[columns[0]]), wide.FromInt(row[columns[1]]), wide.FromInt(row[columns[2]])})
+			}
+			want, e := wide.Determinant(m)
+			got := sums.Minor(columns[0], columns[1], columns[2], l[0], l[1], l[2])
+			if got.Text() != calculated(t, want, e) {
+				t.Errorf("the minor %v of %v: %s, want %s", columns, l, got.Text(), want)
+			}
+			if v := sums.Cross(l[0], l[1], l[2]); i < 3 && v[i] != got {
+				t.Errorf("the minors of %v: %v", l, v)
+			}
+		}
+	}
+}
