@@ -1,0 +1,61 @@
+package line
+
+import (
+	"spokeshave/api"
+	"spokeshave/plane"
+	"spokeshave/right"
+)
+
+// areCrossing checks that p and q have a line.
+func areCrossing(p, q api.Plane) right.Check {
+	return func() api.Errno {
+		if cross(normal(p), normal(q)) == (vector{}) {
+			return api.ErrNone
+		}
+		return api.OK
+	}
+}
+
+// areOn checks that all points are on the line of p and q.
+func areOn(p, q api.Plane, l ...api.Point) right.Check {
+	return func() api.Errno {
+		for _, a := range l {
+			for _, r := range [...]api.Plane{p, q} {
+				if side, _ := plane.Side(r, a); side != 0 {
+					return api.ErrArg
+				}
+			}
+		}
+		return api.OK
+	}
+}
+
+// areSome checks that a list of directions is neither empty nor too long.
+func areSome(length int) right.Check {
+	return func() api.Errno {
+		if length == 0 || length > maxList {
+			return api.ErrArg
+		}
+		return api.OK
+	}
+}
+
+// areIn checks that all vectors are directions in p.
+func areIn(p api.Plane, l ...vector) right.Check {
+	return func() api.Errno {
+		for _, v := range l {
+			if !isIn(p, v) {
+				return api.ErrArg
+			}
+		}
+		return api.OK
+	}
+}
+
+// isIn looks at the sizes first: products of larger elements are not exact.
+func isIn(p api.Plane, v vector) bool {
+	if right.First(right.Within(maxElement, v[:]...)) != api.OK {
+		return false
+	}
+	return v != (vector{}) && dot(v, normal(p)) == 0
+}
