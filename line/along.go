@@ -6,22 +6,19 @@ import (
 	"spokeshave/api"
 	"spokeshave/point"
 	"spokeshave/sums"
+	"spokeshave/vectors"
 )
 
-func normal(p api.Plane) vector {
-	return vector{p[0], p[1], p[2]}
-}
-
 // direction is that of the line of p and q, which are not parallel.
-func direction(p, q api.Plane) vector {
-	v := cross(normal(p), normal(q))
+func direction(p, q api.Plane) vectors.Vector {
+	v := vectors.Cross(vectors.Normal(p), vectors.Normal(q))
 	// What is an int64 stays one when it is divided.
 	n, _ := sums.Lowest(sums.Of(v[0]), sums.Of(v[1]), sums.Of(v[2]))
-	return vector{n[0], n[1], n[2]}
+	return vectors.Vector{n[0], n[1], n[2]}
 }
 
 // lead is greater than 0 if a is further than b in the direction d, and 0 if neither is. It is the difference of both points, times their weights and d: less than 2^100.
-func lead(d vector, a, b api.Point) sums.Sum {
+func lead(d vectors.Vector, a, b api.Point) sums.Sum {
 	part := func(i int) sums.Sum {
 		return sums.Product(a[i], b[3]).Minus(sums.Product(b[i], a[3])).Times(d[i])
 	}

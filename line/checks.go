@@ -4,12 +4,13 @@ import (
 	"spokeshave/api"
 	"spokeshave/plane"
 	"spokeshave/right"
+	"spokeshave/vectors"
 )
 
 // areCrossing checks that p and q have a line.
 func areCrossing(p, q api.Plane) right.Check {
 	return func() api.Errno {
-		if cross(normal(p), normal(q)) == (vector{}) {
+		if vectors.Cross(vectors.Normal(p), vectors.Normal(q)) == (vectors.Vector{}) {
 			return api.ErrNone
 		}
 		return api.OK
@@ -41,7 +42,7 @@ func areSome(length int) right.Check {
 }
 
 // areIn checks that all vectors are directions in p.
-func areIn(p api.Plane, l ...vector) right.Check {
+func areIn(p api.Plane, l ...vectors.Vector) right.Check {
 	return func() api.Errno {
 		for _, v := range l {
 			if !isIn(p, v) {
@@ -53,9 +54,9 @@ func areIn(p api.Plane, l ...vector) right.Check {
 }
 
 // isIn looks at the sizes first: products of larger elements are not exact.
-func isIn(p api.Plane, v vector) bool {
+func isIn(p api.Plane, v vectors.Vector) bool {
 	if right.First(right.Within(maxElement, v[:]...)) != api.OK {
 		return false
 	}
-	return v != (vector{}) && dot(v, normal(p)) == 0
+	return v != (vectors.Vector{}) && vectors.Dot(v, vectors.Normal(p)) == 0
 }
