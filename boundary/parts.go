@@ -4,6 +4,7 @@ import (
 	"slices"
 
 	"spokeshave/api"
+	"spokeshave/lists"
 )
 
 // parts are the pieces on which a set ends, for the planes that it needs alone, as far as they are known to hang together.
@@ -22,7 +23,7 @@ func partsOf(s set) parts {
 		l.planes = append(l.planes, s.planes[i])
 	}
 	for p := range s.pieces() {
-		name := picked(p.name, needed)
+		name := lists.Picked(p.name, needed)
 		if _, isKnown := l.numbers[name]; isKnown {
 			continue
 		}
@@ -32,15 +33,6 @@ func partsOf(s set) parts {
 		l.pieces = append(l.pieces, piece{name, slices.Index(needed, p.plane), p.outer})
 	}
 	return l
-}
-
-// picked returns the characters of s at some places.
-func picked(s string, at []int) string {
-	l := make([]byte, len(at))
-	for n, i := range at {
-		l[n] = s[i]
-	}
-	return string(l)
 }
 
 // join makes one part of those of two pieces.

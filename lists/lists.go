@@ -9,3 +9,12 @@ func Sorted[T comparable](l []T, compare func(a, b T) int) []T {
 	slices.SortFunc(sorted, compare)
 	return slices.Compact(sorted)
 }
+
+// Picked returns the characters of s at some places.
+func Picked(s string, at []int) string {
+	l := make([]byte, len(at))
+	for n, i := range at {
+		l[n] = s[i]
+	}
+	return string(l)
+}
